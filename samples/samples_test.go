@@ -19,6 +19,9 @@ func TestProgramsAreWellTyped(t *testing.T) {
 		if again, _ := format.Program(Program(seed, 1+int(seed%5))); again != text {
 			t.Fatalf("seed %d does not always make the same program", seed)
 		}
+		if fault, e := typecheck.Program(Throwing(seed, 1+int(seed%5))); e != api.OK {
+			t.Fatalf("seed %d, with exceptions: %v %d", seed, fault, int(e))
+		}
 	}
 }
 
